@@ -438,7 +438,7 @@ func TestUnlockByHand(t *testing.T) {
 	checkUnlock(t, last, []impl.Set{{Slot: 3, Version: lastSetVersion}}, last)
 }
 
-// Each two slots, each in every state, with each kind of Set or without one.
+// Each two slots, with the first and the last versions and all flags, with Sets of such versions or without one.
 func TestEveryTwoSlots(t *testing.T) {
 	var states []impl.Cell
 	for _, version := range []int64{0, 1, lastSetVersion, lastVersion} {
@@ -453,7 +453,10 @@ func TestEveryTwoSlots(t *testing.T) {
 		}
 	}
 	choices = append(choices, nil)
-	for _, pair := range [][2]int64{{0, 1}, {0, lastSlot}, {2, 4}, {lastSlot - 1, lastSlot}} {
+	for _, pair := range slotChoices() {
+		if len(pair) != 2 {
+			continue
+		}
 		for _, first := range states {
 			for _, second := range states {
 				cells := withCell(withCell(openCells(), pair[0], first), pair[1], second)
