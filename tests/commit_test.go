@@ -155,10 +155,14 @@ func plainStep(c impl.Cluster, id int64) (impl.Cluster, int64) {
 	}
 	after, plan := deepCluster(c), plainPlanFrom(c, tx)
 	first, stamped := plan[0], tx.Phase == phLock
-	if first.phase != phCommitted && first.phase != phAborted {
-		if !c.Machines[first.machine].Alive {
-			return c, exDown
-		}
+	asks := first.phase != phCommitted && first.phase != phAborted
+	if asks && !c.Machines[first.machine].Alive {
+		return c, exDown
+	}
+	if c.Clock == lastStamp {
+		return c, exFull
+	}
+	if asks {
 		m, well, room := plainChore(after.Machines[first.machine], tx, first, c.Places[first.region].Machines[0])
 		if !room {
 			return c, exFull
@@ -169,9 +173,6 @@ func plainStep(c impl.Cluster, id int64) (impl.Cluster, int64) {
 			plan = plainRetreat(c, tx)
 		}
 		stamped = stamped && (first.phase > phLock || well && plan[0].phase > phLock)
-	}
-	if stamped && c.Clock == lastStamp {
-		return c, exFull
 	}
 	if stamped {
 		after.Clock++
@@ -764,21 +765,127 @@ func TestRoomForTheLast(t *testing.T) {
 				if phase < phLock || phase == phCommitted {
 					continue
 				}
-				check(c, clock < 1000000 || phase != phLock || done < 2)
+				check(c, clock < 1000000)
 			}
 		}
 	}
 }
 
-// Where Lock says false, neither a record nor a Stamp is wanted, so that no room is missed.
+// Where Lock says false, no record is wanted, so that no room for one is missed.
 func TestFailedLocksNeedNoRoom(t *testing.T) {
 	tx := wideTx(phLock)
 	tx.Done = 2
 	c := setPrimary(commitCluster(tx), 2, 0, cellOf(0, false, true, 0))
-	c.Clock = lastStamp
+	c.Clock = lastStamp - 1
 	c.Machines[2].Log, c.Machines[2].Cleared = recordsOf(mostLogged), idsFrom(100, 1, mostCleared)
 	want := changedCluster(c, func(c *impl.Cluster) { c.Txs[0].Phase, c.Txs[0].Done = phUnlock, 0 })
 	checkCalled(t, steps, c, 20, want, 0)
+	// The Clock, though, counts for a lock that fails, too.
+	c.Clock = lastStamp
+	checkCalledCode(t, steps, c, 20, exFull)
+}
+
+// checkWithoutStamps: at the last Stamp the next step answers ExFull, and ExDown where the machine that is asked does not live; one Stamp ahead of it all is as ever.
+func checkWithoutStamps(t *testing.T, c impl.Cluster, asked int64) {
+	t.Helper()
+	for _, what := range []committing{steps, finishes} {
+		last := deepCluster(c)
+		last.Clock = lastStamp
+		checkCalledCode(t, what, last, 20, exFull)
+		for dead := range int64(len(last.Machines)) {
+			down := deepCluster(last)
+			down.Machines[dead].Alive = false
+			switch dead {
+			case down.Txs[0].Home:
+				checkCalledCode(t, what, down, 20, exHome)
+			case asked:
+				checkCalledCode(t, what, down, 20, exDown)
+			default:
+				checkCalledCode(t, what, down, 20, exFull)
+			}
+		}
+	}
+	room := deepCluster(c)
+	room.Clock = lastStamp - 1
+	if _, code := checkPlain(t, room, 20); code != 0 {
+		t.Errorf("phase %d with %d done, one Stamp ahead of the last: %d", c.Txs[0].Phase, c.Txs[0].Done, code)
+	}
+}
+
+// A Clock at the last Stamp stops each step of a whole commit, not only the one that gives the Stamp.
+func TestNoStampInAnyPhase(t *testing.T) {
+	// The Home is one that is never asked.
+	withHome := func(c impl.Cluster) impl.Cluster {
+		c.Machines = append(c.Machines, impl.Machine{Alive: true})
+		c.Txs[0].Home = 5
+		return c
+	}
+	through := func(c impl.Cluster, asked ...int64) {
+		t.Helper()
+		seen := map[int64]int{}
+		for _, m := range asked {
+			checkWithoutStamps(t, c, m)
+			seen[c.Txs[0].Phase]++
+			c, _ = impl.Step(c, 20)
+		}
+		if !ends(c.Txs[0].Phase) {
+			t.Errorf("in the end it is %+v, by %v", c.Txs[0], seen)
+		}
+		// At the end there is no step any more: ExPhase is named ahead, and Finish asks for none.
+		c.Clock = lastStamp
+		checkCalledCode(t, steps, c, 20, exPhase)
+		checkCalled(t, finishes, c, 20, c, 0)
+	}
+	through(withHome(commitCluster(wideTx(phLock))), 1, 3, 2, 1, 3, 2, 0, 2, 4, 1, 3, 2, 1, 0, 2, 3, 2, 4)
+	// The last lock fails; then a check does.
+	through(withHome(setPrimary(commitCluster(wideTx(phLock)), 2, 0, cellOf(0, false, true, 0))), 1, 3, 2, 1, 3, 2)
+	through(withHome(setPrimary(commitCluster(wideTx(phLock)), 0, 3, cellOf(9, true, true, 1))), 1, 3, 2, 1, 1, 3, 2)
+	// Without Sets; and without anything, where nobody is asked.
+	through(withHome(commitCluster(impl.Tx{Id: 20, Phase: phLock, Reads: []impl.Note{openNote(1, 2), openNote(2, 3)}})), 3, 2)
+	through(withHome(commitCluster(impl.Tx{Id: 20, Phase: phLock})), -1)
+}
+
+func ends(phase int64) bool { return phase == phCommitted || phase == phAborted }
+
+// A call that finds its phase at the end goes on to the next one's first machine, or to nobody: the Clock counts in either.
+func TestNoStampWhereAPhaseIsAtItsEnd(t *testing.T) {
+	for _, one := range []struct{ phase, done, asked int64 }{
+		{phLock, 3, 1}, {phLock, 1000, 1}, {phCheck, 3, 0}, {phBackup, 3, 1}, {phPrimary, 3, 1}, {phClear, 6, -1}, {phClear, 1000, -1}, {phUnlock, 3, -1}, {phUnlock, 1000, -1},
+	} {
+		tx := wideTx(one.phase)
+		tx.Done, tx.Home = one.done, 5
+		c := commitCluster(tx)
+		c.Machines = append(c.Machines, impl.Machine{Alive: true})
+		checkWithoutStamps(t, c, one.asked)
+	}
+}
+
+// The Clock hinders Step alone: a transaction runs on, and its commit begins.
+func TestNoStampIsNoneOfCommit(t *testing.T) {
+	c := commitCluster(wideTx(phRun))
+	c.Clock = lastStamp
+	begun := checkCalled(t, commits, c, 20, changedCluster(c, func(c *impl.Cluster) { c.Txs[0].Phase = phLock }), 0)
+	checkCalledCode(t, steps, c, 20, exPhase)
+	checkCalledCode(t, finishes, c, 20, exPhase)
+	checkCalledCode(t, steps, begun, 20, exFull)
+	checkCalledCode(t, finishes, begun, 20, exFull)
+}
+
+// The steps that Finish did ahead of the Clock's last Stamp stay done: its own Stamp may be the last.
+func TestFinishThatTakesTheLastStamp(t *testing.T) {
+	c := commitCluster(wideTx(phLock))
+	c.Clock = lastStamp - 1
+	want := c
+	for range 3 {
+		want, _ = plainStep(want, 20)
+	}
+	got := checkCalled(t, finishes, c, 20, want, exFull)
+	if got.Clock != lastStamp || got.Txs[0].Stamp != lastStamp || got.Txs[0].Phase != phCheck || got.Txs[0].Done != 0 {
+		t.Errorf("it is %+v", got)
+	}
+	checkCalled(t, finishes, got, 20, got, exFull)
+	got.Machines[1].Alive = false
+	checkCalled(t, finishes, got, 20, got, exDown)
 }
 
 // The same call misses a Stamp and finds a dead machine: ExDown is named first.
@@ -801,13 +908,11 @@ type strait struct {
 	phase, done                                                  int64
 }
 
-// What a step does that begins where a strait says; locksLast and checksFirst give a Stamp.
+// What a step does that begins where a strait says.
 const (
 	asksNobody = iota
 	locks
-	locksLast
 	checks
-	checksFirst
 	backs
 	installs
 	clearsOne
@@ -816,7 +921,7 @@ const (
 
 func (s strait) does() int {
 	list := map[int64][]int{
-		phLock: {locks, locksLast, checksFirst}, phCheck: {checks, backs}, phBackup: {backs, backs, installs},
+		phLock: {locks, locks, checks}, phCheck: {checks, backs}, phBackup: {backs, backs, installs},
 		phPrimary: {installs, installs, clearsOne}, phClear: {clearsOne, clearsOne, clearsOne, clearsOne, asksNobody}, phUnlock: {unlocks, unlocks, asksNobody},
 	}[s.phase]
 	if len(list) == 0 {
@@ -828,8 +933,7 @@ func (s strait) does() int {
 // code: the first of the document's list that applies.
 func (s strait) code() int64 {
 	does := s.does()
-	full := s.noLog && ((does == locks || does == locksLast) && !s.conflict || does == backs) ||
-		s.noStamp && (does == locksLast && !s.conflict || does == checksFirst) || s.noCleared && does == clearsOne
+	full := s.noLog && (does == locks && !s.conflict || does == backs) || s.noStamp || s.noCleared && does == clearsOne
 	list := []struct {
 		applies bool
 		code    int64
@@ -1040,7 +1144,7 @@ func TestFinishUpToTheFirstCode(t *testing.T) {
 	stamp := commitCluster(wideTx(phLock))
 	stamp.Clock = lastStamp
 	got, code = impl.Finish(stamp, 20)
-	if code != exFull || got.Txs[0].Phase != phLock || got.Txs[0].Done != 2 || got.Clock != lastStamp || len(got.Machines[2].Log) != 2 {
+	if code != exFull || got.Txs[0].Phase != phLock || got.Txs[0].Done != 0 || got.Clock != lastStamp || len(got.Machines[1].Log) != 1 {
 		t.Errorf("%d, and it is %+v", code, got.Txs)
 	}
 }
